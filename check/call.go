@@ -11,8 +11,8 @@ func (c *checker) call(n *api.Node) {
 		c.put(n)
 		return
 	}
-	no, ok := c.numbers[n.Str]
-	if !ok || c.inside == nil {
+	no, ok := c.function(n.Str)
+	if !ok {
 		c.wrong(n)
 		return
 	}
@@ -26,6 +26,15 @@ func (c *checker) call(n *api.Node) {
 		arguments = append(arguments, c.argument(&n.Kids[i], f.Vars[i].Type))
 	}
 	c.composed(api.Term{Kind: api.TermCall, Type: f.Result, Func: no}, arguments...)
+}
+
+// function is which function a name is, where it stands.
+func (c *checker) function(name string) (int, bool) {
+	if _, _, hidden := c.variable(name); hidden || c.inside == nil {
+		return 0, false
+	}
+	no, ok := c.numbers[name]
+	return no, ok
 }
 
 func (c *checker) get(n *api.Node) {

@@ -499,7 +499,8 @@ func (m *model) call(n *api.Node) api.Term {
 		return api.Term{Kind: api.TermPut, Kids: []api.Term{as(a, up(a.Type))}}
 	}
 	no := m.function(n.Str)
-	typed(no >= 0 && m.local != nil, n)
+	hidden := slices.ContainsFunc(m.known, func(k modelName) bool { return k.name == n.Str })
+	typed(no >= 0 && m.local != nil && !hidden, n)
 	f := m.heads[no]
 	typed(len(n.Kids) == f.Params, n)
 	t := api.Term{Kind: api.TermCall, Type: f.Result, Func: no}

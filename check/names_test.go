@@ -64,8 +64,32 @@ func TestNamesInBlocks(t *testing.T) {
 	if !reflect.DeepEqual(c.Routines[0].Vars, vars) {
 		t.Errorf("variables: %+v", c.Routines[0].Vars)
 	}
-	// A variable that has a function's name does not keep that one from being called.
-	wantAllRight(t, "int f() { int f = 1; return f + f() + g(f); } int g(int g) { return g(g); }"+lastMain)
+}
+
+// Ck1, Sc3: a variable hides the function of its name, until its block ends.
+func TestHiddenFunctions(t *testing.T) {
+	ahead := "struct s { int f; }; int f() { return 1; } void v(int a) { } "
+	wantWrong(t,
+		ahead+"int main() { int f; return @f(); }", ahead+"int main() { int f; return 2 + @f() * 3; }", ahead+"int main() { int f; return @f(1, y); }", ahead+"int main() { int f = 1; @f(); return f; }", ahead+"int main() { char f[2]; return @f(); }", ahead+"int main() { struct s f; return @f(); }", ahead+"int main() { int v; @v(1); return 1; }", ahead+"int main() { int v; @v(y); return 1; }", ahead+"int main() { int f; return sizeof @f(); }", ahead+"int main() { int f; v(@f()); return 1; }", ahead+"int main() { int f, a[2]; return a[@f()]; }",
+		ahead+"int main() { int f = 1, b = @f(); return b; }", ahead+"int main() { int f[2] = {1, 2}; int b[] = {f[0], @f()}; return 1; }", ahead+"int main() { int main; return @main(); }", ahead+"int main() { { int f; { { return @f(); } } } return 1; }", ahead+"int main() { int f; { int g; return @f(); } }", ahead+"int main() { int f; { char f; } return @f(); }", ahead+"int main() { int f; while (@f()) ; return 1; }", ahead+"int main() { while (1) { int f; for (; ; @f()) ; } }",
+		"int f(int f) { return @f(f); }"+lastMain, "int f(int f[]) { return @f(f); }"+lastMain, "struct s { int a; }; int f(struct s *f) { return @f(f); }"+lastMain, "int f(int a, int g) { return @g(a); } int g(int a) { return a; }"+lastMain, "int f(int g) { { return @g(); } } int g() { return 1; }"+lastMain, "int f() { int g; return @g(); } int g() { return f(); }"+lastMain,
+		"int g; int f() { return @g(); }"+lastMain, "int f() { return @g(); } int g;"+lastMain, "int f() { int g; return @g(); }"+lastMain,
+	)
+	c := wantRight(t, "int f() { return 1; } int g(int g) { int h = h() + g, f = f(); { int m = f; } return f; } int h() { { int f; { char f[2]; } f = 2; } return f() + g(f()); } int main() { int main = main(); return main; }")
+	if len(c.Routines) != 4 {
+		t.Fatalf("routines: %+v", c)
+	}
+	for i, want := range []string{
+		"(block (return (const:int 1)))",
+		"(block (decl v1 (alu:int add (call:int f2) (place:int v0 of=int))) (decl v2 (call:int f0)) (block (decl v3 (place:int v2 of=int))) (return (place:int v2 of=int)))",
+		"(block (block (decl v0) (block (decl v1)) (eval (assign:int (place:int v0 of=int) (const:int 2)))) (return (alu:int add (call:int f0) (call:int f1 (call:int f0)))))",
+		"(block (decl v0 (call:int f3)) (return (place:int v0 of=int)))",
+	} {
+		if got := spell(c.Routines[i].Body); got != want {
+			t.Errorf("routine %d: %s, not %s", i, got, want)
+		}
+	}
+	wantAllRight(t, "struct f { int f; }; int f() { struct f g; g.f = f(); return g.f; }"+lastMain, "int f(int g) { return g + f(g); } int g() { return f(g()); }"+lastMain)
 }
 
 // Ck1: main.

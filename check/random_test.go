@@ -3,6 +3,7 @@ package check
 import (
 	"math/rand"
 	"reflect"
+	"slices"
 	"strconv"
 	"strings"
 	"testing"
@@ -218,7 +219,8 @@ func (g *maker) call(depth int, void bool) api.Node {
 	}
 	var l []api.Routine
 	for _, f := range g.funcs {
-		if void || f.Result != api.TypeVoid {
+		hides := func(v api.Var) bool { return v.Name == f.Name }
+		if (void || f.Result != api.TypeVoid) && (!slices.ContainsFunc(g.vars, hides) || g.strange()) {
 			l = append(l, f)
 		}
 	}
