@@ -2,118 +2,154 @@ package check
 
 import "crucible/api"
 
-// maxTerms is more than fit into the 2^31 bytes that a call may be given: only terms whose kids lead back to themselves, or that share their kids, have as many.
-const maxTerms = 20_000_000
-
 // Ends tells whether a checked statement never comes to its end but by a return.
 func Ends(t api.Term) bool {
-	w := walk{left: maxTerms}
-	return w.ends(&t)
+	return ask(question{row: []api.Term{t}, what: someEnds})
 }
 
-// walk goes through statements from lists, since they may lie as deep as there are terms.
+// What is asked of statements in a row.
+const (
+	someEnds   = iota // whether one of them ends
+	allEnd            // whether each of them does
+	noneBreaks        // whether none of them has a break of the loop around
+)
+
+// question is one that hangs on a row of statements, some of which may have been asked.
+type question struct {
+	row  []api.Term
+	what int
+	next int // the first that was not asked
+	cost int // how many were asked, with those within them; not those within rows whose answers are kept
+}
+
+// mark is by what a question is known again: terms may share their kids, so that few rows are met very often.
+type mark struct {
+	first  *api.Term
+	length int
+	what   int
+}
+
+func (q *question) mark() mark { return mark{&q.row[0], len(q.row), q.what} }
+
+// decided tells whether a question needs no more of its row's statements, when the last one said so.
+func (q *question) decided(said bool) bool {
+	return q.next == len(q.row) || q.next > 0 && said == (q.what == someEnds)
+}
+
+// answer is that of a question.
+type answer struct {
+	holds bool
+}
+
+// worth is from how many statements on an answer is kept: there may be millions of rows, and few are soon asked again.
+const worth = 64
+
+// maxRows is more rows, one within the other, than fit into the 2^31 bytes that a call may be given, unless one of them leads back to itself.
+const maxRows = 20_000_000
+
+// walk goes through statements. Questions wait in a list and do not call one another: statements may lie as deep as there are terms.
 type walk struct {
-	left int // how many terms may still be gone through
+	waiting []question
+	said    bool // by the last statement, or row, that was asked
+	answers map[mark]answer
 }
 
-func (w *walk) spend() bool {
-	w.left--
-	return w.left >= 0
-}
-
-// rest is a statement some of whose kids are still to be asked.
-type rest struct {
-	of   *api.Term
-	next int32 // the first of these
-	any  bool  // one kid that ends is enough; else all must end
-}
-
-func (w *walk) ends(t *api.Term) bool {
-	var waiting []rest
-	for w.spend() {
-		r, several := parts(t)
-		ended := !r.any
-		if several {
-			waiting = append(waiting, r)
-		} else {
-			ended = w.endsAlone(t)
+// ask answers a question of a row that has statements.
+func ask(first question) bool {
+	w := walk{waiting: []question{first}, answers: map[mark]answer{}}
+	for len(w.waiting) > 0 {
+		q := &w.waiting[len(w.waiting)-1]
+		if q.decided(w.said) {
+			w.leave()
+			continue
 		}
-		waiting = undecided(waiting, ended)
-		if len(waiting) == 0 {
-			return ended
+		statement := &q.row[q.next]
+		q.next++
+		q.cost++
+		within, alone := part(statement, q.what)
+		w.said = alone
+		if len(within.row) > 0 {
+			w.enter(within)
 		}
-		t, waiting = nextOf(waiting)
+		if len(w.waiting) > maxRows {
+			return false
+		}
 	}
-	return false
+	return w.said
 }
 
-// parts are the kids of which it hangs whether a statement ends; false: it does not hang on any.
-func parts(t *api.Term) (rest, bool) {
-	switch {
-	case t.Kind == api.TermBlock:
-		return rest{of: t, any: true}, true
-	case t.Kind == api.TermIf && len(t.Kids) == 3:
-		return rest{of: t, next: 1}, true
+// enter has a question wait, if its answer is not known.
+func (w *walk) enter(q question) {
+	a, known := w.answers[q.mark()]
+	w.said = a.holds
+	if known {
+		return
 	}
-	return rest{}, false
+	w.waiting = append(w.waiting, q)
+	if w.marked() {
+		// It does not hold till it is answered: a row that leads back to itself would else be asked without end.
+		w.answers[q.mark()] = answer{}
+	}
 }
 
-// undecided is without those statements around that are decided by whether the last one within them ended.
-func undecided(waiting []rest, ended bool) []rest {
-	last := len(waiting) - 1
-	for last >= 0 && (ended == waiting[last].any || int(waiting[last].next) == len(waiting[last].of.Kids)) {
-		last--
+// marked tells whether the last question is known while it waits: each row that leads back to itself comes, again and again, to such a depth.
+func (w *walk) marked() bool { return len(w.waiting)%worth == 0 }
+
+// leave ends the last question, whose answer was said.
+func (w *walk) leave() {
+	last := len(w.waiting) - 1
+	q := &w.waiting[last]
+	cost := q.cost
+	if cost >= worth || w.marked() {
+		w.answers[q.mark()] = answer{w.said}
+		cost = 0
 	}
-	return waiting[:last+1]
+	w.waiting = w.waiting[:last]
+	if last > 0 {
+		w.waiting[last-1].cost += cost
+	}
 }
 
-// nextOf is the next kid that is to be asked. With its last kid a statement is decided, whatever that says: it need not wait any more.
-func nextOf(waiting []rest) (*api.Term, []rest) {
-	last := len(waiting) - 1
-	r := &waiting[last]
-	kid := &r.of.Kids[r.next]
-	r.next++
-	if int(r.next) == len(r.of.Kids) {
-		waiting = waiting[:last]
+// part is the question on which a statement's answer hangs; if that has no row: the answer itself.
+func part(t *api.Term, what int) (question, bool) {
+	if what == noneBreaks {
+		return breakPart(t)
 	}
-	return kid, waiting
+	return endPart(t)
 }
 
-// endsAlone is of statements of which parts knows nothing.
-func (w *walk) endsAlone(t *api.Term) bool {
+func breakPart(t *api.Term) (question, bool) {
+	// A break within a loop within ends that one alone.
+	if t.Kind == api.TermBlock || t.Kind == api.TermIf {
+		return question{row: t.Kids, what: noneBreaks}, true
+	}
+	return question{}, t.Kind != api.TermBreak
+}
+
+func endPart(t *api.Term) (question, bool) {
 	switch {
 	case t.Kind == api.TermReturn:
-		return true
-	case t.Kind == api.TermWhile && len(t.Kids) == 2:
-		return always(&t.Kids[0]) && !w.breaks(t.Kids[1:])
-	case t.Kind == api.TermDo && len(t.Kids) == 2:
-		return always(&t.Kids[1]) && !w.breaks(t.Kids[:1])
-	case t.Kind == api.TermFor && len(t.Kids) == 4:
-		test := &t.Kids[1]
-		return (always(test) || test.Kind == api.TermNone) && !w.breaks(t.Kids[3:])
+		return question{}, true
+	case t.Kind == api.TermBlock:
+		return question{row: t.Kids, what: someEnds}, false
+	case t.Kind == api.TermIf && len(t.Kids) == 3:
+		return question{row: t.Kids[1:], what: allEnd}, false
 	}
-	return false
+	return question{row: endlessBody(t), what: noneBreaks}, false
+}
+
+// endlessBody is the body of a loop that only a break, or a return, would end; of all else it is none.
+func endlessBody(t *api.Term) []api.Term {
+	switch {
+	case t.Kind == api.TermWhile && len(t.Kids) == 2 && always(&t.Kids[0]):
+		return t.Kids[1:]
+	case t.Kind == api.TermDo && len(t.Kids) == 2 && always(&t.Kids[1]):
+		return t.Kids[:1]
+	case t.Kind == api.TermFor && len(t.Kids) == 4 && (always(&t.Kids[1]) || t.Kids[1].Kind == api.TermNone):
+		return t.Kids[3:]
+	}
+	return nil
 }
 
 // always tells whether a test holds in each round.
 func always(t *api.Term) bool { return t.Kind == api.TermConst && t.Imm != 0 }
-
-// breaks tells whether a loop's body has a break of that loop, or too many terms to know.
-func (w *walk) breaks(body []api.Term) bool {
-	waiting := [][]api.Term{body}
-	for len(waiting) > 0 {
-		last := len(waiting) - 1
-		row := waiting[last]
-		waiting = waiting[:last]
-		for i := range row {
-			t := &row[i]
-			if !w.spend() || t.Kind == api.TermBreak {
-				return true
-			}
-			if (t.Kind == api.TermBlock || t.Kind == api.TermIf) && len(t.Kids) > 0 {
-				waiting = append(waiting, t.Kids)
-			}
-		}
-	}
-	return false
-}
