@@ -6,6 +6,7 @@ import (
 
 	"crucible/api"
 	"crucible/check"
+	"crucible/sample"
 )
 
 // Of programs that layer 12 does not tell nothing is promised but what holds of every call: it ends, and does not panic.
@@ -102,51 +103,12 @@ func TestTermsWithoutEnd(t *testing.T) {
 
 // TestSpoiltPrograms changes a part of a program that was one.
 func TestSpoiltPrograms(t *testing.T) {
-	var terms []*api.Term
-	var gather func(x *api.Term)
-	gather = func(x *api.Term) {
-		terms = append(terms, x)
-		for i := range x.Kids {
-			gather(&x.Kids[i])
-		}
-	}
 	for seed := range int64(2000) {
 		p, _, ok := check.Source(randomSource(seed))
 		if !ok {
 			continue
 		}
-		g := rand.New(rand.NewSource(seed))
-		terms = terms[:0]
-		for i := range p.Routines {
-			gather(&p.Routines[i].Body)
-		}
-		for range 1 + g.Intn(3) {
-			spoil(g, terms[g.Intn(len(terms))], *terms[g.Intn(len(terms))])
-		}
+		sample.Spoil(&p, rand.New(rand.NewSource(seed)).Intn)
 		tried(t, "a program that was spoilt", p, 5000)
-	}
-}
-
-func spoil(g *rand.Rand, x *api.Term, other api.Term) {
-	some := []int{-1, 0, 1, 2, 3, 5, 1000, 1 << 31, 1<<63 - 1, -1 << 63}[g.Intn(10)]
-	switch g.Intn(9) {
-	case 0:
-		x.Kind = g.Intn(55)
-	case 1:
-		x.Var = some
-	case 2:
-		x.Field = some
-	case 3:
-		x.Len = some
-	case 4:
-		x.Elem = some
-	case 5:
-		x.Func = some
-	case 6:
-		x.Kids = x.Kids[:g.Intn(len(x.Kids)+1)]
-	case 7:
-		x.Global = !x.Global
-	case 8:
-		*x = other
 	}
 }
